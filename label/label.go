@@ -5,6 +5,7 @@ import (
 	"slices"
 
 	"reredos/api"
+	"reredos/bounds"
 )
 
 // Above: does a label dominate another one?
@@ -24,10 +25,10 @@ func Meet(a, b api.Label) api.Label {
 
 // Check a config.
 func Check(c api.Config) api.Errno {
-	if c.Sites < 1 || c.Sites > api.MaxSites {
+	if !bounds.Within(c.Sites, 1, api.MaxSites) {
 		return api.ErrRange
 	}
-	if len(c.Labels) < 1 || len(c.Labels) > api.MaxLabels {
+	if !bounds.Within(len(c.Labels), 1, api.MaxLabels) {
 		return api.ErrSize
 	}
 	for i, a := range c.Labels {
@@ -38,14 +39,14 @@ func Check(c api.Config) api.Errno {
 			return api.ErrTwice
 		}
 	}
-	if c.Patience < 1 || c.Patience > api.MaxAge {
+	if !bounds.Within(c.Patience, 1, api.MaxAge) {
 		return api.ErrRange
 	}
 	return api.OK
 }
 
 func inBounds(a api.Label) bool {
-	return a.Level >= 0 && a.Level <= api.MaxLevel && a.Cats >= 0 && a.Cats <= api.MaxCats
+	return bounds.Within(a.Level, 0, api.MaxLevel) && bounds.Within(a.Cats, 0, api.MaxCats)
 }
 
 // Sees: does the label at one place dominate that at another one?
@@ -53,14 +54,10 @@ func Sees(c api.Config, a, b int) (bool, api.Errno) {
 	if e := Check(c); e != api.OK {
 		return false, e
 	}
-	if !isPlace(c, a) || !isPlace(c, b) {
+	if !bounds.Label(c, a) || !bounds.Label(c, b) {
 		return false, api.ErrNone
 	}
 	return Above(c.Labels[a], c.Labels[b]), api.OK
-}
-
-func isPlace(c api.Config, l int) bool {
-	return l >= 0 && l < len(c.Labels)
 }
 
 // Home of a key: the site where it is.
@@ -68,7 +65,7 @@ func Home(c api.Config, key int) (int, api.Errno) {
 	if e := Check(c); e != api.OK {
 		return 0, e
 	}
-	if key < 0 || key >= api.Keys {
+	if !bounds.Key(key) {
 		return 0, api.ErrRange
 	}
 	return key % c.Sites, api.OK
@@ -79,7 +76,7 @@ func Purge(c api.Config, l int, acts []api.Act) ([]api.Act, api.Errno) {
 	if e := Check(c); e != api.OK {
 		return nil, e
 	}
-	if !isPlace(c, l) {
+	if !bounds.Label(c, l) {
 		return nil, api.ErrNone
 	}
 	var seen []api.Act
@@ -100,7 +97,7 @@ func hasLabel(kind int) bool {
 
 // hides: a place where no label is hides nothing, for there is nobody whose act it could be.
 func hides(c api.Config, l, place int) bool {
-	return isPlace(c, place) && !Above(c.Labels[l], c.Labels[place])
+	return bounds.Label(c, place) && !Above(c.Labels[l], c.Labels[place])
 }
 
 // purgeKeep copies Keep even where nothing is purged: an answer shares no list with what was handed in.
