@@ -59,13 +59,3 @@ func item(s api.Store, key int) api.Item {
 	}
 	return s.Items[i]
 }
-
-// own: the same, in memory of its own.
-func own(s api.Store) api.Store {
-	return api.Store{
-		Items:  append([]api.Item(nil), s.Items...),
-		Locks:  append([]api.Lock(nil), s.Locks...),
-		Doubts: append([]api.Doubt(nil), s.Doubts...),
-		Over:   append([]api.Txn(nil), s.Over...),
-	}
-}
