@@ -17,3 +17,14 @@ func Store(s api.Store) api.Store {
 func Notes(l []api.Note) []api.Note {
 	return append([]api.Note(nil), l...)
 }
+
+// Desk: the same one; no list of a job is shared, either.
+func Desk(d api.Desk) api.Desk {
+	var jobs []api.Job
+	for _, j := range d.Jobs {
+		j.Tasks = append([]api.Task(nil), j.Tasks...)
+		j.Asked = append([]int(nil), j.Asked...)
+		jobs = append(jobs, j)
+	}
+	return api.Desk{Next: d.Next, Jobs: jobs}
+}

@@ -75,3 +75,61 @@ func TestNotes(t *testing.T) {
 		t.Errorf("of none: %v", l)
 	}
 }
+
+// aDesk: with two jobs, of which each list is longer than what is copied.
+func aDesk() api.Desk {
+	return api.Desk{Next: 9, Jobs: []api.Job{
+		{N: 1, State: api.Telling, Tasks: []api.Task{{Key: 1, Done: true}, {Key: 2}}, Asked: []int{1, 2}, Asks: 3, Age: 4},
+		{N: 2, State: api.Active, Tasks: []api.Task{{Key: 3, Write: true}}},
+	}}
+}
+
+// shorterDesk: so that something stands in the spare room of its lists.
+func shorterDesk(d api.Desk) api.Desk {
+	j := d.Jobs[0]
+	j.Tasks, j.Asked = j.Tasks[:1], j.Asked[:1]
+	d.Jobs[0] = j
+	d.Jobs = d.Jobs[:1]
+	return d
+}
+
+func sameJob(a, b api.Job) bool {
+	lists := slices.Equal(a.Tasks, b.Tasks) && slices.Equal(a.Asked, b.Asked)
+	return lists && a.N == b.N && a.State == b.State && a.Asks == b.Asks && a.Age == b.Age
+}
+
+func sameDesk(a, b api.Desk) bool {
+	return a.Next == b.Next && slices.EqualFunc(a.Jobs, b.Jobs, sameJob)
+}
+
+// spoilDesk: all lists of a desk, with their spare room.
+func spoilDesk(d api.Desk) {
+	for _, j := range d.Jobs[:cap(d.Jobs)] {
+		clear(j.Tasks[:cap(j.Tasks)])
+		clear(j.Asked[:cap(j.Asked)])
+	}
+	clear(d.Jobs[:cap(d.Jobs)])
+}
+
+// TestDesk: the same, and shared with nothing.
+func TestDesk(t *testing.T) {
+	if d := fresh.Desk(aDesk()); !sameDesk(d, aDesk()) {
+		t.Errorf("%v", d)
+	}
+	was := shorterDesk(aDesk())
+	first, second := fresh.Desk(was), fresh.Desk(was)
+	if !sameDesk(first, shorterDesk(aDesk())) {
+		t.Errorf("%v", first)
+	}
+	spoilDesk(first)
+	if !sameDesk(was, shorterDesk(aDesk())) || !sameJob(was.Jobs[:2][1], aDesk().Jobs[1]) || was.Jobs[0].Tasks[:2][1].Key != 2 || was.Jobs[0].Asked[:2][1] != 2 {
+		t.Errorf("shared: %v", was)
+	}
+	spoilDesk(was)
+	if !sameDesk(second, shorterDesk(aDesk())) {
+		t.Errorf("shared: %v", second)
+	}
+	if d := fresh.Desk(api.Desk{Next: 1}); d.Next != 1 || len(d.Jobs) != 0 {
+		t.Errorf("of an empty one: %v", d)
+	}
+}
